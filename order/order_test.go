@@ -245,21 +245,21 @@ func choices() []api.Event {
 }
 
 func TestAllShortTraces(t *testing.T) {
-	var extend func(l []api.Event)
-	extend = func(l []api.Event) {
+	var extend func(l []api.Event, more int)
+	extend = func(l []api.Event, more int) {
+		if more == 0 {
+			return
+		}
 		for _, e := range choices() {
 			longer := append(l[:len(l):len(l)], e)
-			if _, errno := trace.Check(longer); errno != api.OK {
-				continue
-			}
-			wantAll(t, longer)
-			if len(longer) < 4 {
-				extend(longer)
+			if _, errno := trace.Check(longer); errno == api.OK {
+				wantAll(t, longer)
+				extend(longer, more-1)
 			}
 		}
 	}
-	extend(nil)
-	extend(events("t0 fork t2; t0 fork t1; t1 acquire m0"))
+	extend(nil, 4)
+	extend(events("t0 fork t2; t0 fork t1; t1 acquire m0"), 3)
 }
 
 // long returns a trace of n events of all kinds, objects and threads; which one
