@@ -9,23 +9,9 @@ import (
 	"testing"
 
 	"deadheat/api"
+	"deadheat/cases"
 	"deadheat/order"
-	"deadheat/text"
-	"deadheat/trace"
 )
-
-// events returns the events with the given texts, separated by semicolons; they need not be a trace.
-func events(s string) []api.Event {
-	var l []api.Event
-	for _, line := range strings.Split(s, "; ") {
-		e, errno := text.Event(line)
-		if errno != api.OK {
-			panic("no event: " + line)
-		}
-		l = append(l, e)
-	}
-	return l
-}
 
 // numbered returns the pairs that are written like "0-1 0-2".
 func numbered(s string) []api.Pair {
@@ -153,31 +139,18 @@ func unrelated() []string {
 	}
 }
 
-// invalid returns lists with each error of trace.Check.
-func invalid() map[api.Errno][]api.Event {
-	return map[api.Errno][]api.Event{
-		api.ErrLarge: slices.Repeat(events("t0 read x0"), 81),
-		api.ErrArg:   append(events("t0 read x0"), api.Event{Kind: api.Write, Obj: 8}),
-		api.ErrState: events("t0 fork t1; t2 read x0"),
-		api.ErrHeld:  events("t0 acquire m2; t0 acquire m2"),
-		api.ErrFree:  events("t0 acquire m2; t0 release m1"),
-		api.ErrTwice: events("t0 fork t1; t0 fork t1"),
-		api.ErrNone:  events("t0 read x0; t0 join t0"),
-	}
-}
-
 // P11
 
 func TestSamples(t *testing.T) {
 	for _, s := range samples() {
-		wantDirect(t, events(s.trace), numbered(s.direct), api.OK)
-		wantBefore(t, events(s.trace), s.before(), api.OK)
+		wantDirect(t, cases.Events(s.trace), numbered(s.direct), api.OK)
+		wantBefore(t, cases.Events(s.trace), s.before(), api.OK)
 	}
 }
 
 func TestUnrelatedEvents(t *testing.T) {
 	for _, s := range unrelated() {
-		l := events(s)
+		l := cases.Events(s)
 		last := api.Pair{A: len(l) - 2, B: len(l) - 1}
 		for _, ask := range []func([]api.Event) ([]api.Pair, api.Errno){order.Direct, order.Before} {
 			if got, errno := ask(l); slices.Contains(got, last) || errno != api.OK {
@@ -227,71 +200,21 @@ func wantAll(t *testing.T, l []api.Event) {
 	wantBefore(t, l, closed(len(l), pairs), api.OK)
 }
 
-// choices returns events of which many depend on others.
-func choices() []api.Event {
-	var l []api.Event
-	for thread := range 3 {
-		l = append(l, api.Event{Kind: api.Write, Thread: thread, Obj: 1})
-		for obj := range 3 {
-			l = append(l, api.Event{Kind: api.Fork, Thread: thread, Obj: obj}, api.Event{Kind: api.Join, Thread: thread, Obj: obj})
-		}
-		for obj := range 2 {
-			for _, kind := range []int{api.Acquire, api.Release, api.See, api.Show} {
-				l = append(l, api.Event{Kind: kind, Thread: thread, Obj: obj})
-			}
-		}
-	}
-	return l
-}
-
 func TestAllShortTraces(t *testing.T) {
-	var extend func(l []api.Event, more int)
-	extend = func(l []api.Event, more int) {
-		if more == 0 {
-			return
-		}
-		for _, e := range choices() {
-			longer := append(l[:len(l):len(l)], e)
-			if _, errno := trace.Check(longer); errno == api.OK {
-				wantAll(t, longer)
-				extend(longer, more-1)
-			}
-		}
+	for l := range cases.Short() {
+		wantAll(t, l)
 	}
-	extend(nil, 4)
-	extend(events("t0 fork t2; t0 fork t1; t1 acquire m0"), 3)
-}
-
-// long returns a trace of n events of all kinds, objects and threads; which one
-// depends on seed alone.
-func long(n, seed int) []api.Event {
-	l := events("t0 fork t3; t3 fork t1; t0 fork t4; t1 fork t2")
-	state := uint32(seed)
-	below := func(limit int) int {
-		state = state*1664525 + 1013904223
-		return int(state>>16) % limit
-	}
-	for len(l) < n {
-		e := api.Event{Kind: below(8) + 1, Thread: below(6), Obj: below(8)}
-		if e.Kind == api.Join && below(8) > 0 {
-			continue // Joins end threads: with more of them only one would go on.
-		}
-		if _, errno := trace.Check(append(l[:len(l):len(l)], e)); errno == api.OK {
-			l = append(l, e)
-		}
-	}
-	return l
 }
 
 func TestLongTraces(t *testing.T) {
 	for seed := range 60 {
-		wantAll(t, long(80-seed%3, seed))
+		wantAll(t, cases.Long(80-seed%3, seed))
 	}
 }
 
 // In a chain like this, the first event is before the last one through all those between.
 func TestLongChain(t *testing.T) {
-	l := events("t0 fork t1")
+	l := cases.Events("t0 fork t1")
 	for i := 0; len(l) < 80; i++ {
 		sender, receiver := i%2, (i+1)%2
 		l = append(l, api.Event{Kind: api.Show, Thread: sender}, api.Event{Kind: api.See, Thread: receiver})
@@ -306,7 +229,7 @@ func TestLongChain(t *testing.T) {
 // P11: what happens before what is a strict order that agrees with the indices.
 func TestBeforeIsAStrictOrder(t *testing.T) {
 	for seed := range 20 {
-		l := long(60, seed)
+		l := cases.Long(60, seed)
 		pairs, errno := order.Before(l)
 		if errno != api.OK {
 			t.Fatalf("Before(%v): %d", l, errno)
@@ -334,7 +257,7 @@ func TestNoEvents(t *testing.T) {
 
 func TestOneThread(t *testing.T) {
 	for n := range 81 {
-		l := slices.Repeat(events("t0 read x0"), n)
+		l := slices.Repeat(cases.Events("t0 read x0"), n)
 		wantDirect(t, l, allPairs(n), api.OK)
 		wantBefore(t, l, allPairs(n), api.OK)
 	}
@@ -342,7 +265,7 @@ func TestOneThread(t *testing.T) {
 
 func TestPairsAreInIncreasingOrder(t *testing.T) {
 	for seed := range 20 {
-		l := long(80, seed)
+		l := cases.Long(80, seed)
 		for _, ask := range []func([]api.Event) ([]api.Pair, api.Errno){order.Direct, order.Before} {
 			pairs, errno := ask(l)
 			if errno != api.OK || len(pairs) == 0 || !slices.Equal(pairs, slices.Compact(sorted(pairs))) {
@@ -354,7 +277,7 @@ func TestPairsAreInIncreasingOrder(t *testing.T) {
 
 func TestLeads(t *testing.T) {
 	for _, s := range samples() {
-		l := events(s.trace)
+		l := cases.Events(s.trace)
 		for i := range l {
 			for j := range l {
 				wantLeads(t, l, i, j, slices.Contains(s.before(), api.Pair{A: i, B: j}), api.OK)
@@ -364,7 +287,7 @@ func TestLeads(t *testing.T) {
 }
 
 func TestLeadsOfALongTrace(t *testing.T) {
-	l := long(80, 7)
+	l := cases.Long(80, 7)
 	pairs, _ := order.Before(l)
 	for i := range l {
 		for j := range l {
@@ -374,7 +297,7 @@ func TestLeadsOfALongTrace(t *testing.T) {
 }
 
 func TestShowAndSee(t *testing.T) {
-	l := events("t0 fork t1; t1 see v2; t0 show v2; t1 see v2; t0 see v2")
+	l := cases.Events("t0 fork t1; t1 see v2; t0 show v2; t1 see v2; t0 see v2")
 	wantLeads(t, l, 2, 3, true, api.OK)
 	wantLeads(t, l, 2, 1, false, api.OK)
 	wantLeads(t, l, 1, 2, false, api.OK)
@@ -382,7 +305,7 @@ func TestShowAndSee(t *testing.T) {
 }
 
 func TestLeadsOfWhatIsNoIndex(t *testing.T) {
-	l := events("t0 fork t1; t0 acquire m0; t1 read x0; t0 release m0")
+	l := cases.Events("t0 fork t1; t0 acquire m0; t1 read x0; t0 release m0")
 	for _, bad := range []int{math.MinInt, -80, -1, 4, 5, 79, 80, 81, 1 << 32, math.MaxInt} {
 		for i := range l {
 			wantLeads(t, l, i, bad, false, api.ErrArg)
@@ -393,13 +316,13 @@ func TestLeadsOfWhatIsNoIndex(t *testing.T) {
 	}
 	wantLeads(t, l[:1], 0, 1, false, api.ErrArg)
 	wantLeads(t, l[:1], 1, 0, false, api.ErrArg)
-	wantLeads(t, long(80, 1), 0, 80, false, api.ErrArg)
-	wantLeads(t, long(80, 1), 80, 0, false, api.ErrArg)
-	wantLeads(t, long(80, 1), -1, 79, false, api.ErrArg)
+	wantLeads(t, cases.Long(80, 1), 0, 80, false, api.ErrArg)
+	wantLeads(t, cases.Long(80, 1), 80, 0, false, api.ErrArg)
+	wantLeads(t, cases.Long(80, 1), -1, 79, false, api.ErrArg)
 }
 
 func TestErrorsOfTraces(t *testing.T) {
-	for errno, l := range invalid() {
+	for errno, l := range cases.Invalid() {
 		wantDirect(t, l, nil, errno)
 		wantBefore(t, l, nil, errno)
 		wantLeads(t, l, 0, 1, false, errno)
@@ -408,7 +331,7 @@ func TestErrorsOfTraces(t *testing.T) {
 
 // The error of the trace is before that of the indices.
 func TestErrorOfTheTraceIsFirst(t *testing.T) {
-	for errno, l := range invalid() {
+	for errno, l := range cases.Invalid() {
 		for _, bad := range []int{math.MinInt, -1, len(l), len(l) + 1, math.MaxInt} {
 			wantLeads(t, l, bad, 0, false, errno)
 			wantLeads(t, l, 0, bad, false, errno)
@@ -429,7 +352,7 @@ func TestNoArgumentsPanic(t *testing.T) {
 	for _, kind := range numbers {
 		for _, thread := range numbers {
 			for _, obj := range numbers {
-				l := append(events("t0 fork t1"), api.Event{Kind: kind, Thread: thread, Obj: obj})
+				l := append(cases.Events("t0 fork t1"), api.Event{Kind: kind, Thread: thread, Obj: obj})
 				order.Direct(l)
 				order.Before(l)
 				order.Leads(l, obj, thread)
@@ -438,7 +361,7 @@ func TestNoArgumentsPanic(t *testing.T) {
 		}
 	}
 	for _, n := range []int{82, 128, 1000} {
-		l := slices.Repeat(events("t0 read x0"), n)
+		l := slices.Repeat(cases.Events("t0 read x0"), n)
 		wantDirect(t, l, nil, api.ErrLarge)
 		wantBefore(t, l, nil, api.ErrLarge)
 		wantLeads(t, l, n-1, n, false, api.ErrLarge)
@@ -446,7 +369,7 @@ func TestNoArgumentsPanic(t *testing.T) {
 }
 
 func TestArgumentsAreNotModified(t *testing.T) {
-	l := append(long(80, 3), long(40, 4)...)
+	l := append(cases.Long(80, 3), cases.Long(40, 4)...)
 	want := slices.Clone(l)
 	for _, n := range []int{0, 3, 40, 80, 120} {
 		order.Direct(l[:n])
@@ -460,7 +383,7 @@ func TestArgumentsAreNotModified(t *testing.T) {
 
 func TestPairsAreNewlyAllocated(t *testing.T) {
 	for _, s := range samples() {
-		l := events(s.trace)
+		l := cases.Events(s.trace)
 		for _, ask := range []func([]api.Event) ([]api.Pair, api.Errno){order.Direct, order.Before} {
 			first, _ := ask(l)
 			second, _ := ask(l)
@@ -482,12 +405,12 @@ func TestResultsDependOnlyOnArguments(t *testing.T) {
 		group.Go(func() {
 			for range 50 {
 				for _, s := range samples() {
-					l := events(s.trace)
+					l := cases.Events(s.trace)
 					wantDirect(t, l, numbered(s.direct), api.OK)
 					wantBefore(t, l, s.before(), api.OK)
 					wantLeads(t, l, 0, 0, false, api.OK)
 				}
-				for errno, l := range invalid() {
+				for errno, l := range cases.Invalid() {
 					wantDirect(t, l, nil, errno)
 					wantBefore(t, l, nil, errno)
 					wantLeads(t, l, 0, 1, false, errno)
