@@ -1,10 +1,12 @@
-// Package cases has traces for the tests of the other packages.
+// Package cases has traces and checks for the tests of the other packages.
 package cases
 
 import (
 	"iter"
+	"math"
 	"slices"
 	"strings"
+	"sync"
 
 	"deadheat/api"
 	"deadheat/text"
@@ -38,26 +40,102 @@ func Invalid() map[api.Errno][]api.Event {
 	}
 }
 
+// Odd yields lists whose last event is made of numbers in range and out of it, and
+// lists of too many events. Most of them are no traces.
+func Odd() iter.Seq[[]api.Event] {
+	return func(yield func([]api.Event) bool) {
+		start := Events("t0 fork t1; t0 write x0")
+		for _, e := range oddEvents() {
+			if !yield(append(start[:2:2], e)) {
+				return
+			}
+		}
+		for _, n := range []int{82, 128, 1000} {
+			if !yield(slices.Repeat(start[1:], n)) {
+				return
+			}
+		}
+	}
+}
+
+func oddEvents() []api.Event {
+	numbers := []int{math.MinInt, -1, 0, 1, 2, 3, 4, 5, 6, 7, 8, 9, 63, 64, 80, 1 << 32, math.MaxInt}
+	var l []api.Event
+	for _, kind := range numbers {
+		for _, thread := range numbers {
+			for _, obj := range numbers {
+				l = append(l, api.Event{Kind: kind, Thread: thread, Obj: obj})
+			}
+		}
+	}
+	return l
+}
+
+// IsChanged reports whether a function changes the events that it is called with,
+// or those behind them in the same memory.
+func IsChanged(call func(l []api.Event)) bool {
+	l := append(Long(80, 3), Long(40, 4)...)
+	want := slices.Clone(l)
+	for _, n := range []int{0, 3, 40, 80, 120} {
+		call(l[:n])
+	}
+	return !slices.Equal(l, want)
+}
+
+// SharesMemory reports whether a function, which is to have the same result each
+// time, has another one after an earlier result was overwritten.
+func SharesMemory[T comparable](ask func() []T) bool {
+	first, second := ask(), ask()
+	want := slices.Clone(second)
+	clear(first[:cap(first)])
+	return !slices.Equal(second, want) || !slices.Equal(ask(), want)
+}
+
+// Together calls a function many times, in several goroutines at the same time:
+// results of the calls that are not the same show a state that is kept.
+func Together(call func()) {
+	var group sync.WaitGroup
+	for range 4 {
+		group.Go(func() {
+			for range 20 {
+				call()
+			}
+		})
+	}
+	group.Wait()
+}
+
 // Short yields all traces of some events: those of up to four, and those of up
 // to three more after a start with three threads.
 func Short() iter.Seq[[]api.Event] {
 	return func(yield func([]api.Event) bool) {
-		_ = extend(nil, 4, yield) && extend(Events("t0 fork t2; t0 fork t1; t1 acquire m0"), 3, yield)
+		_ = extend(nil, choices(), 4, yield) &&
+			extend(Events("t0 fork t2; t0 fork t1; t1 acquire m0"), choices(), 3, yield)
+	}
+}
+
+// Accesses yields all traces of up to four events after a start with two threads,
+// and of up to three more after a Release: accesses of two variables by both
+// threads, and events that order them.
+func Accesses() iter.Seq[[]api.Event] {
+	return func(yield func([]api.Event) bool) {
+		_ = extend(Events("t0 fork t1"), accesses(), 4, yield) &&
+			extend(Events("t0 fork t1; t0 acquire m0; t0 write x0; t0 read x1; t0 release m0"), accesses(), 3, yield)
 	}
 }
 
 // extend yields all traces of which l is the start and which have at most so many
-// events more. It reports whether there is to be another trace.
-func extend(l []api.Event, more int, yield func([]api.Event) bool) bool {
+// of some events more. It reports whether there is to be another trace.
+func extend(l, events []api.Event, more int, yield func([]api.Event) bool) bool {
 	if more == 0 {
 		return true
 	}
-	for _, e := range choices() {
+	for _, e := range events {
 		longer := append(l[:len(l):len(l)], e)
 		if _, errno := trace.Check(longer); errno != api.OK {
 			continue
 		}
-		if !yield(longer) || !extend(longer, more-1, yield) {
+		if !yield(longer) || !extend(longer, events, more-1, yield) {
 			return false
 		}
 	}
@@ -79,6 +157,22 @@ func choices() []api.Event {
 		}
 	}
 	return l
+}
+
+// accesses returns the events that Accesses combines.
+func accesses() []api.Event {
+	var l []api.Event
+	for thread := range 2 {
+		for obj := range 2 {
+			for _, kind := range []int{api.Read, api.Write} {
+				l = append(l, api.Event{Kind: kind, Thread: thread, Obj: obj})
+			}
+		}
+		for _, kind := range []int{api.Acquire, api.Release, api.See, api.Show} {
+			l = append(l, api.Event{Kind: kind, Thread: thread})
+		}
+	}
+	return append(l, Events("t0 join t1")...)
 }
 
 // Long returns a trace of n events (at least 4, at most 80) of all kinds, objects

@@ -1,7 +1,9 @@
 package cases_test
 
 import (
+	"iter"
 	"slices"
+	"sync/atomic"
 	"testing"
 
 	"deadheat/api"
@@ -12,13 +14,7 @@ import (
 // A test that ranges over no traces, or over wrong ones, would pass without a word.
 
 func TestShort(t *testing.T) {
-	lengths := map[int]int{}
-	for l := range cases.Short() {
-		lengths[len(l)]++
-		if at, errno := trace.Check(l); errno != api.OK {
-			t.Errorf("Check(%v) = %d, %d", l, at, errno)
-		}
-	}
+	lengths := lengthsOf(t, cases.Short())
 	for n := 1; n <= 6; n++ {
 		if lengths[n] == 0 {
 			t.Errorf("no traces of %d events: %v", n, lengths)
@@ -26,16 +22,40 @@ func TestShort(t *testing.T) {
 	}
 }
 
-func TestShortStops(t *testing.T) {
-	for limit := 1; limit <= 10000; limit *= 10 {
-		var n int
-		for range cases.Short() {
-			if n++; n == limit {
-				break
-			}
+func TestAccesses(t *testing.T) {
+	lengths := lengthsOf(t, cases.Accesses())
+	for n := 2; n <= 8; n++ {
+		if lengths[n] == 0 {
+			t.Errorf("no traces of %d events: %v", n, lengths)
 		}
-		if n != limit {
-			t.Errorf("%d traces, want %d", n, limit)
+	}
+}
+
+// lengthsOf returns how many of the lists have each length. All must be traces.
+func lengthsOf(t *testing.T, lists iter.Seq[[]api.Event]) map[int]int {
+	t.Helper()
+	lengths := map[int]int{}
+	for l := range lists {
+		lengths[len(l)]++
+		if at, errno := trace.Check(l); errno != api.OK {
+			t.Errorf("Check(%v) = %d, %d", l, at, errno)
+		}
+	}
+	return lengths
+}
+
+func TestBreak(t *testing.T) {
+	for _, lists := range []iter.Seq[[]api.Event]{cases.Short(), cases.Accesses(), cases.Odd()} {
+		for _, limit := range []int{1, 10, 100, 1000, 4914} {
+			var n int
+			for range lists {
+				if n++; n == limit {
+					break
+				}
+			}
+			if n != limit {
+				t.Errorf("%d traces, want %d", n, limit)
+			}
 		}
 	}
 }
@@ -64,6 +84,62 @@ func TestInvalid(t *testing.T) {
 		if at, errno := trace.Check(lists[want]); errno != want {
 			t.Errorf("Check(%v) = %d, %d, want %d", lists[want], at, errno, want)
 		}
+	}
+}
+
+func TestOdd(t *testing.T) {
+	found := map[api.Errno]int{}
+	for l := range cases.Odd() {
+		_, errno := trace.Check(l)
+		found[errno]++
+	}
+	for _, errno := range []api.Errno{api.OK, api.ErrArg, api.ErrLarge, api.ErrNone, api.ErrTwice, api.ErrFree, api.ErrState} {
+		if found[errno] == 0 {
+			t.Errorf("no list with error %d: %v", errno, found)
+		}
+	}
+}
+
+func TestIsChanged(t *testing.T) {
+	if cases.IsChanged(func([]api.Event) {}) {
+		t.Error("changed by nothing")
+	}
+	for name, change := range map[string]func(l []api.Event){
+		"first":  func(l []api.Event) { clear(l[:min(1, len(l))]) },
+		"last":   func(l []api.Event) { clear(l[max(0, len(l)-1):]) },
+		"behind": func(l []api.Event) { _ = append(l, api.Event{}) },
+	} {
+		if !cases.IsChanged(change) {
+			t.Errorf("%s: not noticed", name)
+		}
+	}
+}
+
+func TestSharesMemory(t *testing.T) {
+	kept := []int{1, 2, 3}
+	for name, ask := range map[string]func() []int{
+		"all":    func() []int { return kept },
+		"part":   func() []int { return kept[:1] },
+		"unused": func() []int { return append(kept[:1], 2) },
+	} {
+		if copy(kept, []int{1, 2, 3}); !cases.SharesMemory(ask) {
+			t.Errorf("%s: not noticed", name)
+		}
+	}
+	for _, ask := range []func() []int{
+		func() []int { return []int{1, 2} },
+		func() []int { return nil },
+	} {
+		if cases.SharesMemory(ask) {
+			t.Errorf("noticed for %v", ask())
+		}
+	}
+}
+
+func TestTogether(t *testing.T) {
+	var calls atomic.Int32
+	if cases.Together(func() { calls.Add(1) }); calls.Load() != 80 {
+		t.Errorf("%d calls", calls.Load())
 	}
 }
 

@@ -5,12 +5,12 @@ import (
 	"slices"
 	"strconv"
 	"strings"
-	"sync"
 	"testing"
 
 	"deadheat/api"
 	"deadheat/cases"
 	"deadheat/order"
+	"deadheat/trace"
 )
 
 // numbered returns the pairs that are written like "0-1 0-2".
@@ -306,12 +306,15 @@ func TestShowAndSee(t *testing.T) {
 
 func TestLeadsOfWhatIsNoIndex(t *testing.T) {
 	l := cases.Events("t0 fork t1; t0 acquire m0; t1 read x0; t0 release m0")
-	for _, bad := range []int{math.MinInt, -80, -1, 4, 5, 79, 80, 81, 1 << 32, math.MaxInt} {
+	all := []int{math.MinInt, -80, -1, 4, 5, 79, 80, 81, 1 << 32, math.MaxInt}
+	for _, bad := range all {
 		for i := range l {
 			wantLeads(t, l, i, bad, false, api.ErrArg)
 			wantLeads(t, l, bad, i, false, api.ErrArg)
 		}
-		wantLeads(t, l, bad, bad, false, api.ErrArg)
+		for _, other := range all {
+			wantLeads(t, l, bad, other, false, api.ErrArg)
+		}
 		wantLeads(t, nil, bad, 0, false, api.ErrArg)
 	}
 	wantLeads(t, l[:1], 0, 1, false, api.ErrArg)
@@ -321,11 +324,17 @@ func TestLeadsOfWhatIsNoIndex(t *testing.T) {
 	wantLeads(t, cases.Long(80, 1), -1, 79, false, api.ErrArg)
 }
 
+// wantError wants the same error from all functions, whatever i and j are.
+func wantError(t *testing.T, l []api.Event, i, j int, want api.Errno) {
+	t.Helper()
+	wantDirect(t, l, nil, want)
+	wantBefore(t, l, nil, want)
+	wantLeads(t, l, i, j, false, want)
+}
+
 func TestErrorsOfTraces(t *testing.T) {
 	for errno, l := range cases.Invalid() {
-		wantDirect(t, l, nil, errno)
-		wantBefore(t, l, nil, errno)
-		wantLeads(t, l, 0, 1, false, errno)
+		wantError(t, l, 0, 1, errno)
 	}
 }
 
@@ -342,81 +351,50 @@ func TestErrorOfTheTraceIsFirst(t *testing.T) {
 
 // P1 and P2
 
-func TestNoArgumentsPanic(t *testing.T) {
-	defer func() {
-		if p := recover(); p != nil {
-			t.Errorf("panic: %v", p)
+// Whatever a list has, there is no panic, and the error is that of trace.Check.
+func TestOddLists(t *testing.T) {
+	for l := range cases.Odd() {
+		if _, errno := trace.Check(l); errno != api.OK {
+			wantError(t, l, len(l)-1, len(l), errno)
+		} else {
+			wantAll(t, l)
 		}
-	}()
-	numbers := []int{math.MinInt, -1, 0, 1, 2, 3, 4, 5, 6, 7, 8, 9, 63, 64, 80, 1 << 32, math.MaxInt}
-	for _, kind := range numbers {
-		for _, thread := range numbers {
-			for _, obj := range numbers {
-				l := append(cases.Events("t0 fork t1"), api.Event{Kind: kind, Thread: thread, Obj: obj})
-				order.Direct(l)
-				order.Before(l)
-				order.Leads(l, obj, thread)
-				order.Leads(l[:1], thread, obj)
-			}
-		}
-	}
-	for _, n := range []int{82, 128, 1000} {
-		l := slices.Repeat(cases.Events("t0 read x0"), n)
-		wantDirect(t, l, nil, api.ErrLarge)
-		wantBefore(t, l, nil, api.ErrLarge)
-		wantLeads(t, l, n-1, n, false, api.ErrLarge)
 	}
 }
 
 func TestArgumentsAreNotModified(t *testing.T) {
-	l := append(cases.Long(80, 3), cases.Long(40, 4)...)
-	want := slices.Clone(l)
-	for _, n := range []int{0, 3, 40, 80, 120} {
-		order.Direct(l[:n])
-		order.Before(l[:n])
-		order.Leads(l[:n], 0, 2)
-		if !slices.Equal(l, want) {
-			t.Fatalf("modified: %v", l)
-		}
+	if cases.IsChanged(func(l []api.Event) {
+		order.Direct(l)
+		order.Before(l)
+		order.Leads(l, 0, 2)
+	}) {
+		t.Error("modified")
 	}
 }
 
 func TestPairsAreNewlyAllocated(t *testing.T) {
 	for _, s := range samples() {
 		l := cases.Events(s.trace)
-		for _, ask := range []func([]api.Event) ([]api.Pair, api.Errno){order.Direct, order.Before} {
-			first, _ := ask(l)
-			second, _ := ask(l)
-			want := slices.Clone(second)
-			clear(first[:cap(first)])
-			if !slices.Equal(second, want) {
-				t.Errorf("changed with another result: %v", second)
-			}
+		direct := func() []api.Pair { pairs, _ := order.Direct(l); return pairs }
+		before := func() []api.Pair { pairs, _ := order.Before(l); return pairs }
+		if cases.SharesMemory(direct) || cases.SharesMemory(before) {
+			t.Errorf("%s: results share memory", s.trace)
 		}
 		wantDirect(t, l, numbered(s.direct), api.OK)
 		wantBefore(t, l, s.before(), api.OK)
 	}
 }
 
-// Calls at the same time, and after other ones, show a state that is kept between calls.
 func TestResultsDependOnlyOnArguments(t *testing.T) {
-	var group sync.WaitGroup
-	for range 4 {
-		group.Go(func() {
-			for range 50 {
-				for _, s := range samples() {
-					l := cases.Events(s.trace)
-					wantDirect(t, l, numbered(s.direct), api.OK)
-					wantBefore(t, l, s.before(), api.OK)
-					wantLeads(t, l, 0, 0, false, api.OK)
-				}
-				for errno, l := range cases.Invalid() {
-					wantDirect(t, l, nil, errno)
-					wantBefore(t, l, nil, errno)
-					wantLeads(t, l, 0, 1, false, errno)
-				}
-			}
-		})
-	}
-	group.Wait()
+	cases.Together(func() {
+		for _, s := range samples() {
+			l := cases.Events(s.trace)
+			wantDirect(t, l, numbered(s.direct), api.OK)
+			wantBefore(t, l, s.before(), api.OK)
+			wantLeads(t, l, 0, 0, false, api.OK)
+		}
+		for errno, l := range cases.Invalid() {
+			wantError(t, l, 0, 1, errno)
+		}
+	})
 }

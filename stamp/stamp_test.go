@@ -3,7 +3,6 @@ package stamp_test
 import (
 	"math"
 	"slices"
-	"sync"
 	"testing"
 
 	"deadheat/api"
@@ -11,6 +10,7 @@ import (
 	"deadheat/clock"
 	"deadheat/order"
 	"deadheat/stamp"
+	"deadheat/trace"
 )
 
 var badThreads = []int{math.MinInt, -6, -1, 6, 7, 8, 80, 1 << 32, math.MaxInt}
@@ -201,11 +201,17 @@ func TestClocksRepresentTheOrder(t *testing.T) {
 	}
 }
 
+// wantError wants the same error from both functions, whatever thread is.
+func wantError(t *testing.T, l []api.Event, thread int, want api.Errno) {
+	t.Helper()
+	wantStamps(t, l, nil, want)
+	wantKnows(t, l, thread, api.Clock{}, want)
+}
+
 func TestErrorsOfTraces(t *testing.T) {
 	for errno, l := range cases.Invalid() {
-		wantStamps(t, l, nil, errno)
 		for thread := range 6 {
-			wantKnows(t, l, thread, api.Clock{}, errno)
+			wantError(t, l, thread, errno)
 		}
 	}
 }
@@ -229,74 +235,48 @@ func TestErrorOfTheTraceIsFirst(t *testing.T) {
 
 // P1 and P2
 
-func TestNoArgumentsPanic(t *testing.T) {
-	defer func() {
-		if p := recover(); p != nil {
-			t.Errorf("panic: %v", p)
+// Whatever a list has, there is no panic, and the error is that of trace.Check.
+func TestOddLists(t *testing.T) {
+	for l := range cases.Odd() {
+		if _, errno := trace.Check(l); errno != api.OK {
+			wantError(t, l, 0, errno)
+		} else {
+			wantStamps(t, l, carried(l), api.OK)
+			wantKnows(t, l, 1, last(l, carried(l), 1), api.OK)
 		}
-	}()
-	numbers := []int{math.MinInt, -1, 0, 1, 2, 3, 4, 5, 6, 7, 8, 9, 63, 64, 80, 1 << 32, math.MaxInt}
-	for _, kind := range numbers {
-		for _, thread := range numbers {
-			for _, obj := range numbers {
-				l := append(cases.Events("t0 fork t1"), api.Event{Kind: kind, Thread: thread, Obj: obj})
-				stamp.Stamps(l)
-				stamp.Knows(l, thread)
-				stamp.Knows(l[:1], obj)
-			}
-		}
-	}
-	for _, n := range []int{82, 128, 1000} {
-		l := slices.Repeat(cases.Events("t0 read x0"), n)
-		wantStamps(t, l, nil, api.ErrLarge)
-		wantKnows(t, l, 0, api.Clock{}, api.ErrLarge)
 	}
 }
 
 func TestArgumentsAreNotModified(t *testing.T) {
-	l := append(cases.Long(80, 3), cases.Long(40, 4)...)
-	want := slices.Clone(l)
-	for _, n := range []int{0, 3, 40, 80, 120} {
-		stamp.Stamps(l[:n])
+	if cases.IsChanged(func(l []api.Event) {
+		stamp.Stamps(l)
 		for thread := range 7 {
-			stamp.Knows(l[:n], thread)
+			stamp.Knows(l, thread)
 		}
-		if !slices.Equal(l, want) {
-			t.Fatalf("modified: %v", l)
-		}
+	}) {
+		t.Error("modified")
 	}
 }
 
 func TestStampsAreNewlyAllocated(t *testing.T) {
 	for _, s := range samples() {
 		l := cases.Events(s.trace)
-		first, _ := stamp.Stamps(l)
-		second, _ := stamp.Stamps(l)
-		clear(first[:cap(first)])
-		if !slices.Equal(second, s.stamps) {
-			t.Errorf("changed with another result: %v", second)
+		if cases.SharesMemory(func() []api.Clock { stamps, _ := stamp.Stamps(l); return stamps }) {
+			t.Errorf("%s: results share memory", s.trace)
 		}
 		wantStamps(t, l, s.stamps, api.OK)
 	}
 }
 
-// Calls at the same time, and after other ones, show a state that is kept between calls.
 func TestResultsDependOnlyOnArguments(t *testing.T) {
-	var group sync.WaitGroup
-	for range 4 {
-		group.Go(func() {
-			for range 50 {
-				for _, s := range samples() {
-					l := cases.Events(s.trace)
-					wantStamps(t, l, s.stamps, api.OK)
-					wantKnows(t, l, 0, last(l, s.stamps, 0), api.OK)
-				}
-				for errno, l := range cases.Invalid() {
-					wantStamps(t, l, nil, errno)
-					wantKnows(t, l, 0, api.Clock{}, errno)
-				}
-			}
-		})
-	}
-	group.Wait()
+	cases.Together(func() {
+		for _, s := range samples() {
+			l := cases.Events(s.trace)
+			wantStamps(t, l, s.stamps, api.OK)
+			wantKnows(t, l, 0, last(l, s.stamps, 0), api.OK)
+		}
+		for errno, l := range cases.Invalid() {
+			wantError(t, l, 0, errno)
+		}
+	})
 }
