@@ -5,6 +5,7 @@ import (
 	"iter"
 	"math"
 	"slices"
+	"strconv"
 	"strings"
 	"sync"
 
@@ -25,6 +26,31 @@ func Events(s string) []api.Event {
 		l = append(l, e)
 	}
 	return l
+}
+
+// Flags returns the flags that are written like "2 x0 ww; 5 x3 rw"; there is none in
+// an empty text. It panics if one is written in another way, as a test is wrong then.
+func Flags(s string) []api.Flag {
+	if s == "" {
+		return nil
+	}
+	var l []api.Flag
+	for _, part := range strings.Split(s, "; ") {
+		l = append(l, flag(part))
+	}
+	return l
+}
+
+func flag(s string) api.Flag {
+	kinds := map[string]int{"ww": api.WriteWrite, "wr": api.WriteRead, "rw": api.ReadWrite}
+	at, rest, _ := strings.Cut(s, " x")
+	variable, kind, _ := strings.Cut(rest, " ")
+	index, errIndex := strconv.Atoi(at)
+	x, errVar := strconv.Atoi(variable)
+	if errIndex != nil || errVar != nil || kinds[kind] == 0 {
+		panic("no flag: " + s)
+	}
+	return api.Flag{At: index, Var: x, Kind: kinds[kind]}
 }
 
 // Invalid returns lists with each error of trace.Check.

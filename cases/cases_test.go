@@ -143,11 +143,31 @@ func TestTogether(t *testing.T) {
 	}
 }
 
-func TestEventsPanicsWithoutEvent(t *testing.T) {
-	defer func() {
-		if recover() == nil {
-			t.Error("no panic")
+func TestFlags(t *testing.T) {
+	want := []api.Flag{{At: 2, Kind: api.WriteWrite}, {At: 15, Var: 3, Kind: api.ReadWrite}, {At: 79, Var: 7, Kind: api.WriteRead}}
+	if got := cases.Flags("2 x0 ww; 15 x3 rw; 79 x7 wr"); !slices.Equal(got, want) {
+		t.Errorf("Flags = %v, want %v", got, want)
+	}
+	if got := cases.Flags(""); len(got) != 0 {
+		t.Errorf("Flags without text = %v", got)
+	}
+}
+
+func panics(call func()) (is bool) {
+	defer func() { is = recover() != nil }()
+	call()
+	return false
+}
+
+func TestPanicsAtWrongTexts(t *testing.T) {
+	for _, s := range []string{"", "t0 read m0", "t0 read x0; t0 read m0", "t0 read x0;"} {
+		if !panics(func() { cases.Events(s) }) {
+			t.Errorf("Events(%q): no panic", s)
 		}
-	}()
-	cases.Events("t0 read x0; t0 read m0")
+	}
+	for _, s := range []string{" ", "2", "2 x0", "2 x0 rr", "2 0 ww", "x x0 ww", "2 xx ww", "2 x0 ww;", "2 x0 ww; 3"} {
+		if !panics(func() { cases.Flags(s) }) {
+			t.Errorf("Flags(%q): no panic", s)
+		}
+	}
 }

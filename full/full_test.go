@@ -3,8 +3,6 @@ package full_test
 import (
 	"math"
 	"slices"
-	"strconv"
-	"strings"
 	"testing"
 
 	"deadheat/api"
@@ -15,22 +13,6 @@ import (
 )
 
 var badVars = []int{math.MinInt, -8, -1, 8, 9, 16, 80, 1 << 32, math.MaxInt}
-
-// written returns the flags that are written like "2 x0 ww; 5 x3 rw".
-func written(s string) []api.Flag {
-	kinds := map[string]int{"ww": 1, "wr": 2, "rw": 3}
-	var l []api.Flag
-	for _, part := range strings.Split(s, "; ") {
-		words := strings.Fields(part)
-		if len(words) < 3 {
-			continue
-		}
-		at, _ := strconv.Atoi(words[0])
-		variable, _ := strconv.Atoi(words[1][1:])
-		l = append(l, api.Flag{At: at, Var: variable, Kind: kinds[words[2]]})
-	}
-	return l
-}
 
 func wantRun(t *testing.T, l []api.Event, want []api.Flag, wantErrno api.Errno) {
 	t.Helper()
@@ -46,9 +28,17 @@ func wantLast(t *testing.T, l []api.Event, x int, wantR, wantW api.Clock, wantEr
 	}
 }
 
-// wantError wants the same error from both functions, whatever x is.
+func wantAccesses(t *testing.T, l []api.Event, want []full.Access, wantErrno api.Errno) {
+	t.Helper()
+	if got, errno := full.Accesses(l); !slices.Equal(got, want) || errno != wantErrno {
+		t.Errorf("Accesses(%v) = %v, %d, want %v, %d", l, got, errno, want, wantErrno)
+	}
+}
+
+// wantError wants the same error from all functions, whatever x is.
 func wantError(t *testing.T, l []api.Event, x int, want api.Errno) {
 	t.Helper()
+	wantAccesses(t, l, nil, want)
 	wantRun(t, l, nil, want)
 	wantLast(t, l, x, api.Clock{}, api.Clock{}, want)
 }
@@ -170,7 +160,7 @@ func samples() []sample {
 
 func TestSamples(t *testing.T) {
 	for _, s := range samples() {
-		wantResults(t, cases.Events(s.trace), written(s.flags))
+		wantResults(t, cases.Events(s.trace), cases.Flags(s.flags))
 	}
 }
 
@@ -199,6 +189,21 @@ func TestOwnNumbers(t *testing.T) {
 		l := cases.Events(s)
 		wantLast(t, l, 3, numbers(l, api.Read, 3), want, api.OK)
 	}
+}
+
+// The accesses have the clock C of their thread at that time.
+func TestAccesses(t *testing.T) {
+	l := cases.Events("t0 write x1; t0 fork t1; t1 read x7; t0 show v0; t1 see v0; t1 write x1; t0 join t1; t0 read x0")
+	want := []full.Access{
+		{Event: l[0], At: 0, Own: api.Clock{1}},
+		{Event: l[2], At: 2, Own: api.Clock{1, 1}},
+		{Event: l[5], At: 5, Own: api.Clock{2, 1}},
+		{Event: l[7], At: 7, Own: api.Clock{3, 1}},
+	}
+	wantAccesses(t, l, want, api.OK)
+	wantAccesses(t, l[:7], want[:3], api.OK)
+	wantAccesses(t, l[1:2], nil, api.OK)
+	wantAccesses(t, nil, nil, api.OK)
 }
 
 // The detector flags exactly the events that race with an earlier one.
@@ -272,7 +277,7 @@ func TestLast(t *testing.T) {
 	wantLast(t, l[:3], 1, api.Clock{1}, api.Clock{2}, api.OK)
 	wantLast(t, l[:6], 1, api.Clock{1, 1}, api.Clock{2, 2}, api.OK)
 	wantLast(t, l[:8], 1, api.Clock{2, 1}, api.Clock{2, 2}, api.OK)
-	wantRun(t, l, written("3 x1 wr; 5 x1 ww; 7 x1 wr; 10 x1 ww"), api.OK)
+	wantRun(t, l, cases.Flags("3 x1 wr; 5 x1 ww; 7 x1 wr; 10 x1 ww"), api.OK)
 }
 
 func TestErrorsOfTraces(t *testing.T) {
@@ -327,6 +332,7 @@ func TestOddLists(t *testing.T) {
 func TestArgumentsAreNotModified(t *testing.T) {
 	if cases.IsChanged(func(l []api.Event) {
 		full.Run(l)
+		full.Accesses(l)
 		for x := range 9 {
 			full.Last(l, x)
 		}
@@ -335,20 +341,22 @@ func TestArgumentsAreNotModified(t *testing.T) {
 	}
 }
 
-func TestFlagsAreNewlyAllocated(t *testing.T) {
+func TestResultsAreNewlyAllocated(t *testing.T) {
 	for _, s := range samples() {
 		l := cases.Events(s.trace)
-		if cases.SharesMemory(func() []api.Flag { flags, _ := full.Run(l); return flags }) {
+		run := func() []api.Flag { flags, _ := full.Run(l); return flags }
+		accesses := func() []full.Access { accesses, _ := full.Accesses(l); return accesses }
+		if cases.SharesMemory(run) || cases.SharesMemory(accesses) {
 			t.Errorf("%s: results share memory", s.trace)
 		}
-		wantResults(t, l, written(s.flags))
+		wantResults(t, l, cases.Flags(s.flags))
 	}
 }
 
 func TestResultsDependOnlyOnArguments(t *testing.T) {
 	cases.Together(func() {
 		for _, s := range samples() {
-			wantResults(t, cases.Events(s.trace), written(s.flags))
+			wantResults(t, cases.Events(s.trace), cases.Flags(s.flags))
 		}
 		for errno, l := range cases.Invalid() {
 			wantError(t, l, 0, errno)
