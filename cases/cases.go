@@ -53,6 +53,22 @@ func flag(s string) api.Flag {
 	return api.Flag{At: index, Var: x, Kind: kinds[kind]}
 }
 
+// Pairs returns the pairs that are written like "0-1 0-2". It panics if one is written
+// in another way, as a test is wrong then.
+func Pairs(s string) []api.Pair {
+	var l []api.Pair
+	for _, word := range strings.Fields(s) {
+		first, second, _ := strings.Cut(word, "-")
+		a, errA := strconv.Atoi(first)
+		b, errB := strconv.Atoi(second)
+		if errA != nil || errB != nil {
+			panic("no pair: " + word)
+		}
+		l = append(l, api.Pair{A: a, B: b})
+	}
+	return l
+}
+
 // Invalid returns lists with each error of trace.Check.
 func Invalid() map[api.Errno][]api.Event {
 	return map[api.Errno][]api.Event{
@@ -150,6 +166,14 @@ func Accesses() iter.Seq[[]api.Event] {
 	}
 }
 
+// Locks yields all traces of up to six events after a start with two threads:
+// Acquires and Releases of three locks by both threads.
+func Locks() iter.Seq[[]api.Event] {
+	return func(yield func([]api.Event) bool) {
+		_ = extend(Events("t0 fork t1"), locks(), 6, yield)
+	}
+}
+
 // extend yields all traces of which l is the start and which have at most so many
 // of some events more. It reports whether there is to be another trace.
 func extend(l, events []api.Event, more int, yield func([]api.Event) bool) bool {
@@ -199,6 +223,19 @@ func accesses() []api.Event {
 		}
 	}
 	return append(l, Events("t0 join t1")...)
+}
+
+// locks returns the events that Locks combines.
+func locks() []api.Event {
+	var l []api.Event
+	for thread := range 2 {
+		for obj := range 3 {
+			for _, kind := range []int{api.Acquire, api.Release} {
+				l = append(l, api.Event{Kind: kind, Thread: thread, Obj: obj})
+			}
+		}
+	}
+	return l
 }
 
 // Long returns a trace of n events (at least 4, at most 80) of all kinds, objects

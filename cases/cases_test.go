@@ -31,6 +31,14 @@ func TestAccesses(t *testing.T) {
 	}
 }
 
+func TestLocks(t *testing.T) {
+	lengths := lengthsOf(t, cases.Locks())
+	// After one Acquire, the second event is its Release or one of four Acquires.
+	if lengths[2] != 6 || lengths[3] != 6*5 || lengths[7] == 0 || len(lengths) != 6 {
+		t.Errorf("lengths %v", lengths)
+	}
+}
+
 // lengthsOf returns how many of the lists have each length. All must be traces.
 func lengthsOf(t *testing.T, lists iter.Seq[[]api.Event]) map[int]int {
 	t.Helper()
@@ -45,7 +53,7 @@ func lengthsOf(t *testing.T, lists iter.Seq[[]api.Event]) map[int]int {
 }
 
 func TestBreak(t *testing.T) {
-	for _, lists := range []iter.Seq[[]api.Event]{cases.Short(), cases.Accesses(), cases.Odd()} {
+	for _, lists := range []iter.Seq[[]api.Event]{cases.Short(), cases.Accesses(), cases.Locks(), cases.Odd()} {
 		for _, limit := range []int{1, 10, 100, 1000, 4914} {
 			var n int
 			for range lists {
@@ -153,6 +161,16 @@ func TestFlags(t *testing.T) {
 	}
 }
 
+func TestPairs(t *testing.T) {
+	want := []api.Pair{{A: 0, B: 1}, {A: 12, B: 3}, {A: 4, B: 4}}
+	if got := cases.Pairs("0-1 12-3 4-4"); !slices.Equal(got, want) {
+		t.Errorf("Pairs = %v, want %v", got, want)
+	}
+	if got := cases.Pairs(""); len(got) != 0 {
+		t.Errorf("Pairs without text = %v", got)
+	}
+}
+
 func panics(call func()) (is bool) {
 	defer func() { is = recover() != nil }()
 	call()
@@ -168,6 +186,11 @@ func TestPanicsAtWrongTexts(t *testing.T) {
 	for _, s := range []string{" ", "2", "2 x0", "2 x0 rr", "2 0 ww", "x x0 ww", "2 xx ww", "2 x0 ww;", "2 x0 ww; 3"} {
 		if !panics(func() { cases.Flags(s) }) {
 			t.Errorf("Flags(%q): no panic", s)
+		}
+	}
+	for _, s := range []string{"0", "0-", "-1", "0-x", "x-1", "0-1;", "0-1 2"} {
+		if !panics(func() { cases.Pairs(s) }) {
+			t.Errorf("Pairs(%q): no panic", s)
 		}
 	}
 }

@@ -3,8 +3,6 @@ package order_test
 import (
 	"math"
 	"slices"
-	"strconv"
-	"strings"
 	"testing"
 
 	"deadheat/api"
@@ -12,18 +10,6 @@ import (
 	"deadheat/order"
 	"deadheat/trace"
 )
-
-// numbered returns the pairs that are written like "0-1 0-2".
-func numbered(s string) []api.Pair {
-	var l []api.Pair
-	for _, word := range strings.Fields(s) {
-		first, second, _ := strings.Cut(word, "-")
-		a, _ := strconv.Atoi(first)
-		b, _ := strconv.Atoi(second)
-		l = append(l, api.Pair{A: a, B: b})
-	}
-	return l
-}
 
 // sorted returns pairs in increasing order of A, then of B.
 func sorted(l []api.Pair) []api.Pair {
@@ -71,7 +57,7 @@ func wantLeads(t *testing.T, l []api.Event, i, j int, want bool, wantErrno api.E
 type sample struct{ trace, direct, more string }
 
 func (s sample) before() []api.Pair {
-	return sorted(numbered(s.direct + " " + s.more))
+	return sorted(cases.Pairs(s.direct + " " + s.more))
 }
 
 // samples returns traces whose pairs were found by reading P11.
@@ -143,7 +129,7 @@ func unrelated() []string {
 
 func TestSamples(t *testing.T) {
 	for _, s := range samples() {
-		wantDirect(t, cases.Events(s.trace), numbered(s.direct), api.OK)
+		wantDirect(t, cases.Events(s.trace), cases.Pairs(s.direct), api.OK)
 		wantBefore(t, cases.Events(s.trace), s.before(), api.OK)
 	}
 }
@@ -380,7 +366,7 @@ func TestPairsAreNewlyAllocated(t *testing.T) {
 		if cases.SharesMemory(direct) || cases.SharesMemory(before) {
 			t.Errorf("%s: results share memory", s.trace)
 		}
-		wantDirect(t, l, numbered(s.direct), api.OK)
+		wantDirect(t, l, cases.Pairs(s.direct), api.OK)
 		wantBefore(t, l, s.before(), api.OK)
 	}
 }
@@ -389,7 +375,7 @@ func TestResultsDependOnlyOnArguments(t *testing.T) {
 	cases.Together(func() {
 		for _, s := range samples() {
 			l := cases.Events(s.trace)
-			wantDirect(t, l, numbered(s.direct), api.OK)
+			wantDirect(t, l, cases.Pairs(s.direct), api.OK)
 			wantBefore(t, l, s.before(), api.OK)
 			wantLeads(t, l, 0, 0, false, api.OK)
 		}
