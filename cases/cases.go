@@ -69,6 +69,40 @@ func Pairs(s string) []api.Pair {
 	return l
 }
 
+// Program returns the program that is written like "fork t1; add -4; store x0 | see v0":
+// a bar is between two threads, and a thread may have no operations. It panics if one
+// is written in another way, as a test is wrong then.
+func Program(s string) [][]api.Op {
+	var p [][]api.Op
+	for _, thread := range strings.Split(s, "|") {
+		var ops []api.Op
+		if thread = strings.TrimSpace(thread); thread != "" {
+			for _, part := range strings.Split(thread, "; ") {
+				ops = append(ops, operation(part))
+			}
+		}
+		p = append(p, ops)
+	}
+	return p
+}
+
+func operation(s string) api.Op {
+	kinds := map[string]int{
+		"load x": api.OLoad, "store x": api.OStore, "add ": api.OAdd, "lock m": api.OLock, "unlock m": api.OUnlock,
+		"fork t": api.OFork, "join t": api.OJoin, "see v": api.OSee, "show v": api.OShow,
+	}
+	at := max(0, strings.IndexAny(s, "-0123456789"))
+	kind := kinds[s[:at]]
+	n, err := strconv.Atoi(s[at:])
+	if kind == 0 || err != nil {
+		panic("no operation: " + s)
+	}
+	if kind == api.OAdd {
+		return api.Op{Kind: kind, N: n}
+	}
+	return api.Op{Kind: kind, Obj: n}
+}
+
 // Invalid returns lists with each error of trace.Check.
 func Invalid() map[api.Errno][]api.Event {
 	return map[api.Errno][]api.Event{
@@ -242,11 +276,7 @@ func locks() []api.Event {
 // and threads; which one depends on seed alone.
 func Long(n, seed int) []api.Event {
 	l := Events("t0 fork t3; t3 fork t1; t0 fork t4; t1 fork t2")
-	state := uint32(seed)
-	below := func(limit int) int {
-		state = state*1664525 + 1013904223
-		return int(state>>16) % limit
-	}
+	below := Chooser(seed)
 	for len(l) < n {
 		e := api.Event{Kind: below(8) + 1, Thread: below(6), Obj: below(8)}
 		if e.Kind == api.Join && below(8) > 0 {
@@ -257,4 +287,50 @@ func Long(n, seed int) []api.Event {
 		}
 	}
 	return l
+}
+
+// Mixed returns a program whose threads have so many operations (at most 12 each, of
+// at most 6 threads), of all kinds and objects; which ones depends on seed alone.
+func Mixed(seed int, sizes ...int) [][]api.Op {
+	below := Chooser(seed)
+	var p [][]api.Op
+	for thread, size := range sizes {
+		var ops []api.Op
+		for range size {
+			ops = append(ops, mixedOp(below))
+		}
+		if size > 0 && thread+1 < len(sizes) && below(8) > 0 {
+			// Without these, most threads would not begin.
+			ops[below(min(2, size))] = api.Op{Kind: api.OFork, Obj: thread + 1}
+		}
+		p = append(p, ops)
+	}
+	return p
+}
+
+func mixedOp(below func(limit int) int) api.Op {
+	limits := [...]int{
+		api.OLoad: api.MaxVars, api.OStore: api.MaxVars, api.OAdd: 1, api.OLock: api.MaxLocks, api.OUnlock: api.MaxLocks,
+		api.OFork: api.MaxThreads, api.OJoin: api.MaxThreads, api.OSee: api.MaxVols, api.OShow: api.MaxVols,
+	}
+	kind := below(9) + 1
+	for (kind == api.OJoin || kind == api.OLock) && below(3) > 0 {
+		kind = below(9) + 1 // With more of those, all threads would soon wait.
+	}
+	// With low numbers more often, threads share what they use.
+	op := api.Op{Kind: kind, Obj: below(below(limits[kind]) + 1)}
+	if kind == api.OAdd {
+		op.N = below(2*api.MaxNumber+1) - api.MaxNumber
+	}
+	return op
+}
+
+// Chooser returns a function that returns numbers below a limit; which ones depends on
+// seed alone.
+func Chooser(seed int) func(limit int) int {
+	state := uint32(seed)
+	return func(limit int) int {
+		state = state*1664525 + 1013904223
+		return int(state>>16) % limit
+	}
 }

@@ -171,6 +171,79 @@ func TestPairs(t *testing.T) {
 	}
 }
 
+func TestProgram(t *testing.T) {
+	for s, want := range map[string][][]api.Op{
+		"":                 {nil},
+		"load x0":          {{{Kind: api.OLoad}}},
+		"add -12 | add 12": {{{Kind: api.OAdd, N: -12}}, {{Kind: api.OAdd, N: 12}}},
+		"| see v1; show v2; see v9 |": {
+			nil, {{Kind: api.OSee, Obj: 1}, {Kind: api.OShow, Obj: 2}, {Kind: api.OSee, Obj: 9}}, nil,
+		},
+		"fork t1; join t5 | lock m3; unlock m4; store x7": {
+			{{Kind: api.OFork, Obj: 1}, {Kind: api.OJoin, Obj: 5}},
+			{{Kind: api.OLock, Obj: 3}, {Kind: api.OUnlock, Obj: 4}, {Kind: api.OStore, Obj: 7}},
+		},
+	} {
+		if got := cases.Program(s); !slices.EqualFunc(got, want, slices.Equal[[]api.Op]) {
+			t.Errorf("Program(%q) = %v, want %v", s, got, want)
+		}
+	}
+}
+
+// Programs that had only some kinds, objects or numbers would not tell much.
+func TestMixed(t *testing.T) {
+	found := map[api.Op]int{}
+	for seed := range 2000 {
+		sizes := []int{seed % 13, 12, 0, 5, 12, 1}[:seed%7]
+		p := cases.Mixed(seed, sizes...)
+		if len(p) != len(sizes) {
+			t.Errorf("Mixed(%d, %v) = %v", seed, sizes, p)
+		}
+		for thread, ops := range p {
+			if len(ops) != sizes[thread] {
+				t.Errorf("Mixed(%d, %v) = %v", seed, sizes, p)
+			}
+			for _, op := range ops {
+				found[op]++
+			}
+		}
+	}
+	for kind, last := range map[int]int{
+		api.OLoad: 7, api.OStore: 7, api.OLock: 4, api.OUnlock: 4, api.OFork: 5, api.OJoin: 5, api.OSee: 3, api.OShow: 3,
+	} {
+		for obj := range last + 1 {
+			op := api.Op{Kind: kind, Obj: obj}
+			if found[op] == 0 {
+				t.Errorf("no operation %v", op)
+			}
+			delete(found, op)
+		}
+	}
+	for op := range found {
+		if op.Kind != api.OAdd || op.Obj != 0 || op.N < -1000 || op.N > 1000 {
+			t.Errorf("operation %v", op)
+		}
+	}
+	if len(found) < 1000 {
+		t.Errorf("only %d numbers", len(found))
+	}
+}
+
+func TestChooser(t *testing.T) {
+	found := map[int]bool{}
+	below, again := cases.Chooser(5), cases.Chooser(5)
+	for range 1000 {
+		n := below(20)
+		if n < 0 || n >= 20 || n != again(20) {
+			t.Errorf("%d is not below 20, or not the same again", n)
+		}
+		found[n] = true
+	}
+	if len(found) != 20 {
+		t.Errorf("numbers %v", found)
+	}
+}
+
 func panics(call func()) (is bool) {
 	defer func() { is = recover() != nil }()
 	call()
@@ -191,6 +264,11 @@ func TestPanicsAtWrongTexts(t *testing.T) {
 	for _, s := range []string{"0", "0-", "-1", "0-x", "x-1", "0-1;", "0-1 2"} {
 		if !panics(func() { cases.Pairs(s) }) {
 			t.Errorf("Pairs(%q): no panic", s)
+		}
+	}
+	for _, s := range []string{"x", "load", "load x", "load 0", "load m0", "add", "add x0", "add --1", "add 1;", "; add 1", "load x0 store x1", "load x0, add 1", "read x0"} {
+		if !panics(func() { cases.Program(s) }) {
+			t.Errorf("Program(%q): no panic", s)
 		}
 	}
 }

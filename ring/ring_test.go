@@ -426,11 +426,7 @@ func TestAllPairsThatFollowAnOrder(t *testing.T) {
 // Pairs of any locks, in any order; some of them are there more than once.
 func TestManyPairs(t *testing.T) {
 	lists := allLists()
-	state := uint32(1)
-	below := func(limit int) int {
-		state = state*1664525 + 1013904223
-		return int(state>>16) % limit
-	}
+	below := cases.Chooser(1)
 	lengths := map[int]int{}
 	for range 3000 {
 		var p []api.Pair
