@@ -158,6 +158,25 @@ func IsChanged(call func(l []api.Event)) bool {
 	return !slices.Equal(l, want)
 }
 
+// IsProgramChanged reports whether a function changes the program that it is called
+// with, which is like p, or the threads behind it or the operations behind those of a
+// thread in the same memory.
+func IsProgramChanged(p [][]api.Op, call func(p [][]api.Op)) bool {
+	behind := Program("store x1; lock m1; add 3")[0]
+	var all [][]api.Op
+	for _, ops := range p {
+		all = append(all, slices.Concat(ops, behind))
+	}
+	all = append(all, behind, slices.Clone(behind))
+	threads := slices.Clone(all)
+	for thread, ops := range p {
+		threads[thread] = threads[thread][:len(ops)]
+	}
+	wantThreads, wantAll := Copied(threads), Copied(all)
+	call(threads[:len(p)])
+	return !AreEqual(threads, wantThreads) || !AreEqual(all, wantAll)
+}
+
 // SharesMemory reports whether a function, which is to have the same result each
 // time, has another one after an earlier result was overwritten.
 func SharesMemory[T comparable](ask func() []T) bool {
@@ -323,6 +342,31 @@ func mixedOp(below func(limit int) int) api.Op {
 		op.N = below(2*api.MaxNumber+1) - api.MaxNumber
 	}
 	return op
+}
+
+// Lists returns all lists of up to n of some operations.
+func Lists(n int, choices []api.Op) [][]api.Op {
+	lists := [][]api.Op{nil}
+	for begin := 0; len(lists[begin]) < n; begin++ {
+		for _, op := range choices {
+			lists = append(lists, append(slices.Clone(lists[begin]), op))
+		}
+	}
+	return lists
+}
+
+// Copied returns a program that shares no memory with another one, which it equals.
+func Copied(p [][]api.Op) [][]api.Op {
+	var q [][]api.Op
+	for _, ops := range p {
+		q = append(q, slices.Clone(ops))
+	}
+	return q
+}
+
+// AreEqual reports whether two programs have the same operations.
+func AreEqual(p, q [][]api.Op) bool {
+	return slices.EqualFunc(p, q, slices.Equal[[]api.Op])
 }
 
 // Chooser returns a function that returns numbers below a limit; which ones depends on

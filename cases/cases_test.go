@@ -123,6 +123,35 @@ func TestIsChanged(t *testing.T) {
 	}
 }
 
+func TestIsProgramChanged(t *testing.T) {
+	p := cases.Program("load x0; add 3 | | fork t1; lock m2")
+	if cases.IsProgramChanged(p, func(q [][]api.Op) {
+		if !cases.AreEqual(p, q) {
+			t.Errorf("called with %v, not %v", q, p)
+		}
+	}) {
+		t.Error("changed by nothing")
+	}
+	for name, change := range map[string]func(q [][]api.Op){
+		"first operation":         func(q [][]api.Op) { q[0][0].N++ },
+		"last operation":          func(q [][]api.Op) { q[2][1].Obj++ },
+		"behind the operations":   func(q [][]api.Op) { _ = append(q[0], api.Op{}) },
+		"behind those of another": func(q [][]api.Op) { _ = append(q[2], api.Op{}) },
+		"behind no operations":    func(q [][]api.Op) { _ = append(q[1], api.Op{}) },
+		"first thread":            func(q [][]api.Op) { q[0] = q[0][:1] },
+		"last thread":             func(q [][]api.Op) { q[2] = nil },
+		"behind the threads":      func(q [][]api.Op) { _ = append(q, nil) },
+		"another thread behind":   func(q [][]api.Op) { q[:4][3][0].N++ },
+	} {
+		if !cases.IsProgramChanged(p, change) {
+			t.Errorf("%s: not noticed", name)
+		}
+	}
+	if !cases.AreEqual(p, cases.Program("load x0; add 3 | | fork t1; lock m2")) {
+		t.Errorf("changed itself, to %v", p)
+	}
+}
+
 func TestSharesMemory(t *testing.T) {
 	kept := []int{1, 2, 3}
 	for name, ask := range map[string]func() []int{
@@ -184,7 +213,7 @@ func TestProgram(t *testing.T) {
 			{{Kind: api.OLock, Obj: 3}, {Kind: api.OUnlock, Obj: 4}, {Kind: api.OStore, Obj: 7}},
 		},
 	} {
-		if got := cases.Program(s); !slices.EqualFunc(got, want, slices.Equal[[]api.Op]) {
+		if got := cases.Program(s); !cases.AreEqual(got, want) {
 			t.Errorf("Program(%q) = %v, want %v", s, got, want)
 		}
 	}
@@ -226,6 +255,49 @@ func TestMixed(t *testing.T) {
 	}
 	if len(found) < 1000 {
 		t.Errorf("only %d numbers", len(found))
+	}
+}
+
+func TestLists(t *testing.T) {
+	choices := cases.Program("load x0; add 3; lock m1")[0]
+	for n, want := range []int{1, 4, 13, 40} {
+		found := map[string]bool{}
+		for _, ops := range cases.Lists(n, choices) {
+			name := ""
+			for _, op := range ops {
+				name += string(rune('a' + slices.Index(choices, op)))
+			}
+			if found[name] = true; len(name) > n {
+				t.Errorf("a list of %d operations, not up to %d", len(name), n)
+			}
+		}
+		if len(found) != want {
+			t.Errorf("%d lists of up to %d operations, want %d", len(found), n, want)
+		}
+	}
+}
+
+func TestCopied(t *testing.T) {
+	p := cases.Program("load x0; add 3 | | lock m1")
+	q := cases.Copied(p)
+	if !cases.AreEqual(p, q) {
+		t.Errorf("Copied(%v) = %v", p, q)
+	}
+	q[2][0].Obj = 2
+	q[0] = nil
+	if !cases.AreEqual(p, cases.Program("load x0; add 3 | | lock m1")) {
+		t.Errorf("%v changed with the copy", p)
+	}
+}
+
+func TestAreEqual(t *testing.T) {
+	programs := []string{"", "|", "add 1", "add 2", "load x1", "add 1; add 1", "add 1 |", "| add 1", "add 1 | add 1"}
+	for i, one := range programs {
+		for j, other := range programs {
+			if cases.AreEqual(cases.Program(one), cases.Program(other)) != (i == j) {
+				t.Errorf("%q and %q", one, other)
+			}
+		}
 	}
 }
 

@@ -103,6 +103,16 @@ func (h history) isOver(thread int) bool {
 	return h.executed(thread) == len(h.program[thread])
 }
 
+func (h history) able() []int {
+	var threads []int
+	for thread := range h.program {
+		if h.canGoOn(thread) {
+			threads = append(threads, thread)
+		}
+	}
+	return threads
+}
+
 // with returns the history with one pick more.
 func (h history) with(pick int) history {
 	if !h.canGoOn(pick) {
@@ -211,7 +221,7 @@ func (c *counts) wantMany(t *testing.T, least int) {
 func TestAllOrdersOfShortPrograms(t *testing.T) {
 	var found counts
 	choices := cases.Program("load x0; store x0; add 1; lock m0; unlock m0; fork t1; fork t2; join t0; join t1; join t2; see v0; show v0")[0]
-	lists := upTo(2, choices)
+	lists := cases.Lists(2, choices)
 	fork := cases.Program("fork t1")[0]
 	for _, first := range lists {
 		for _, second := range lists {
@@ -222,23 +232,13 @@ func TestAllOrdersOfShortPrograms(t *testing.T) {
 	found.wantMany(t, 1000)
 }
 
-// upTo returns all lists of up to n of some operations.
-func upTo(n int, choices []api.Op) [][]api.Op {
-	lists := [][]api.Op{nil}
-	for begin := 0; len(lists[begin]) < n; begin++ {
-		for _, op := range choices {
-			lists = append(lists, append(slices.Clone(lists[begin]), op))
-		}
-	}
-	return lists
-}
-
 // wantAllOrders wants what P28 and P29 say of all executions that begin with some picks.
 func wantAllOrders(t *testing.T, found *counts, h history, picks []int) {
 	end, events := h.end(), h.events()
 	found.add(end, events)
 	wantTrace(t, h, events)
 	wantRun(t, h.program, picks, end, events)
+	wantAble(t, h.program, picks, h.able())
 	for pick := range len(h.program) + 1 {
 		longer := append(picks[:len(picks):len(picks)], pick)
 		if h.canGoOn(pick) {
@@ -277,6 +277,7 @@ func TestMixedPrograms(t *testing.T) {
 			found.add(end, events)
 			wantTrace(t, h, events)
 			wantRun(t, h.program, picks, end, events)
+			wantAble(t, h.program, picks, h.able())
 		}
 	}
 	found.wantMany(t, 100)
@@ -293,6 +294,7 @@ func TestPrefixesOfPicks(t *testing.T) {
 				end, events := h.end(), h.events()
 				found.add(end, events)
 				wantRun(t, h.program, picks[:n], end, events)
+				wantAble(t, h.program, picks[:n], h.able())
 				h = h.with(pick)
 			}
 		}
@@ -338,10 +340,10 @@ func wantPairs(t *testing.T, p [][]api.Op, thread int) {
 }
 
 func TestAloneOfAllLists(t *testing.T) {
-	for _, ops := range upTo(6, cases.Program("lock m0; lock m1; lock m3; unlock m0; unlock m1")[0]) {
+	for _, ops := range cases.Lists(6, cases.Program("lock m0; lock m1; lock m3; unlock m0; unlock m1")[0]) {
 		wantPairs(t, [][]api.Op{ops}, 0)
 	}
-	for _, ops := range upTo(4, cases.Program("lock m4; lock m2; unlock m2; unlock m4; load x4; join t2; fork t4; show v2; add 2")[0]) {
+	for _, ops := range cases.Lists(4, cases.Program("lock m4; lock m2; unlock m2; unlock m4; load x4; join t2; fork t4; show v2; add 2")[0]) {
 		wantPairs(t, [][]api.Op{nil, ops}, 1)
 	}
 }
@@ -365,7 +367,7 @@ func TestAloneOfMixedPrograms(t *testing.T) {
 // locks that it has not, and releases all of them.
 func TestLocksInOneOrder(t *testing.T) {
 	var lists [][]api.Op
-	for _, ops := range upTo(4, cases.Program("lock m0; lock m1; unlock m0; unlock m1")[0]) {
+	for _, ops := range cases.Lists(4, cases.Program("lock m0; lock m1; unlock m0; unlock m1")[0]) {
 		if isOrderly(ops) {
 			lists = append(lists, ops)
 		}

@@ -22,9 +22,19 @@ func wantRun(t *testing.T, p [][]api.Op, picks []int, want api.End, events []api
 	}
 }
 
-// wantRunError wants an error, and nothing beside it.
+func wantAble(t *testing.T, p [][]api.Op, picks []int, want []int) {
+	t.Helper()
+	if got, errno := prog.Able(p, picks); !slices.Equal(got, want) || errno != api.OK {
+		t.Errorf("Able(%v, %v) = %v, %d, want %v", p, picks, got, errno, want)
+	}
+}
+
+// wantRunError wants an error of the functions with picks, and nothing beside it.
 func wantRunError(t *testing.T, p [][]api.Op, picks []int, want api.Errno) {
 	t.Helper()
+	if able, errno := prog.Able(p, picks); len(able) != 0 || errno != want {
+		t.Errorf("Able(%v, %d picks) = %v, %d, want error %d", p, len(picks), able, errno, want)
+	}
 	if end, l, errno := prog.Run(p, picks); end != (api.End{}) || len(l) != 0 || errno != want {
 		t.Errorf("Run(%v, %d picks) = %v, %v, %d, want error %d", p, len(picks), end, l, errno, want)
 	}
@@ -431,6 +441,37 @@ func TestNumbersOfPicks(t *testing.T) {
 func TestErrorOfTheProgramBeforeThatOfThePicks(t *testing.T) {
 	wantRunError(t, cases.Program("load x8"), make([]int, 101), api.ErrArg)
 	wantRunError(t, cases.Program("load x7"), make([]int, 101), api.ErrLarge)
+}
+
+// Able says which picks P28 gives an effect.
+func TestAble(t *testing.T) {
+	for _, c := range []struct {
+		program     string
+		picks, able []int
+	}{
+		{"", nil, nil},
+		{"add 1", nil, []int{0}},
+		{"add 1", []int{0}, nil},
+		{"add 1", []int{1, -1, 6}, []int{0}},
+		{"add 0; add 0", []int{0}, []int{0}},
+		{"unlock m0; add 1", nil, []int{0}},
+		{"fork t0", nil, []int{0}},
+		{"join t0", nil, nil},
+		{"fork t5 | add 1 | add 1", nil, []int{0}},
+		{"fork t5 | add 1 | add 1", []int{0}, nil},
+		{"fork t2; fork t1; add 1 | add 1 | add 1", []int{0}, []int{0, 2}},
+		{"fork t2; fork t1; add 1 | add 1 | add 1", []int{0, 0}, []int{0, 1, 2}},
+		{"fork t2; fork t1; add 1 | add 1 | add 1", []int{0, 0, 0}, []int{1, 2}},
+		{"fork t2; fork t1; add 1 | add 1 | add 1", []int{0, 2, 0, 1}, []int{0}},
+		{"fork t1; lock m0; unlock m0 | lock m0", []int{0}, []int{0, 1}},
+		{"fork t1; lock m0; unlock m0 | lock m0", []int{0, 0}, []int{0}},
+		{"fork t1; lock m0; unlock m0 | lock m0", []int{0, 0, 1, 0}, []int{1}},
+		{"fork t1; lock m0; unlock m0 | lock m0", []int{0, 1}, nil},
+		{"fork t1; join t1 | add 1", []int{0}, []int{1}},
+		{"fork t1; join t1 | add 1", []int{0, 0, 1}, []int{0}},
+	} {
+		wantAble(t, cases.Program(c.program), c.picks, c.able)
+	}
 }
 
 // P30

@@ -40,52 +40,25 @@ func TestOddPrograms(t *testing.T) {
 	}
 }
 
-// backed returns a program that has operations behind those of each thread, and threads
-// behind its last one, in the same memory; and all of that memory.
-func backed(p [][]api.Op) ([][]api.Op, [][]api.Op) {
-	behind := cases.Program("store x1; lock m1; add 3")[0]
-	var all [][]api.Op
-	for _, ops := range p {
-		all = append(all, slices.Concat(ops, behind))
-	}
-	all = append(all, behind, slices.Clone(behind))
-	shorter := slices.Clone(all)
-	for thread, ops := range p {
-		shorter[thread] = shorter[thread][:len(ops)]
-	}
-	return shorter[:len(p)], all
-}
-
-func copied(p [][]api.Op) [][]api.Op {
-	var q [][]api.Op
-	for _, ops := range p {
-		q = append(q, slices.Clone(ops))
-	}
-	return q
-}
-
-func equal(p, q [][]api.Op) bool {
-	return slices.EqualFunc(p, q, slices.Equal[[]api.Op])
-}
-
 // P2: the arguments
 
 func TestArgumentsAreNotModified(t *testing.T) {
 	for seed := range 100 {
 		for _, sizes := range manySizes() {
-			p, all := backed(cases.Mixed(seed, sizes...))
-			wantP, wantAll := copied(p[:cap(p)]), copied(all)
 			picks := mixedPicks(seed, len(sizes))
 			wantPicks := slices.Clone(picks)
-			prog.Check(p)
-			for n := range len(picks) + 1 {
-				prog.Run(p, picks[:n])
-			}
-			for thread := range p {
-				prog.Alone(p, thread)
-			}
-			if !equal(p[:cap(p)], wantP) || !equal(all, wantAll) || !slices.Equal(picks, wantPicks) {
-				t.Errorf("modified: %v, %v", p[:cap(p)], picks)
+			isChanged := cases.IsProgramChanged(cases.Mixed(seed, sizes...), func(p [][]api.Op) {
+				prog.Check(p)
+				for n := range len(picks) + 1 {
+					prog.Run(p, picks[:n])
+					prog.Able(p, picks[:n])
+				}
+				for thread := range p {
+					prog.Alone(p, thread)
+				}
+			})
+			if isChanged || !slices.Equal(picks, wantPicks) {
+				t.Errorf("modified: program %d of %v, or its picks %v", seed, sizes, picks)
 			}
 		}
 	}
@@ -95,7 +68,7 @@ func TestArgumentsAreNotModified(t *testing.T) {
 func TestThreadsThatShareMemory(t *testing.T) {
 	ops := cases.Program("fork t1; lock m0; add 1; store x0; unlock m0; lock m1; lock m0")[0]
 	p := [][]api.Op{ops, ops[1:], ops[:3], ops}
-	q := copied(p)
+	q := cases.Copied(p)
 	for seed := range 20 {
 		picks := mixedPicks(seed, 2)
 		end, events, _ := prog.Run(q, picks)
@@ -115,12 +88,15 @@ func TestResultsAreNewlyAllocated(t *testing.T) {
 		if cases.SharesMemory(func() []api.Event { _, l, _ := prog.Run(p, s.picks); return l }) {
 			t.Errorf("%s: events share memory", s.program)
 		}
+		if cases.SharesMemory(func() []int { able, _ := prog.Able(p, s.picks); return able }) {
+			t.Errorf("%s: able threads share memory", s.program)
+		}
 		for thread := range p {
 			if cases.SharesMemory(func() []api.Pair { pairs, _ := prog.Alone(p, thread); return pairs }) {
 				t.Errorf("%s: pairs of thread %d share memory", s.program, thread)
 			}
 		}
-		if !equal(p, cases.Program(s.program)) {
+		if !cases.AreEqual(p, cases.Program(s.program)) {
 			t.Errorf("%s: changed with a result", s.program)
 		}
 	}
