@@ -355,18 +355,20 @@ func Lists(n int, choices []api.Op) [][]api.Op {
 	return lists
 }
 
-// Copied returns a program that shares no memory with another one, which it equals.
-func Copied(p [][]api.Op) [][]api.Op {
-	var q [][]api.Op
-	for _, ops := range p {
-		q = append(q, slices.Clone(ops))
+// Copied returns lists that share no memory with other ones, which they equal: the
+// threads of a program, or traces.
+func Copied[T any](lists [][]T) [][]T {
+	var copies [][]T
+	for _, l := range lists {
+		copies = append(copies, slices.Clone(l))
 	}
-	return q
+	return copies
 }
 
-// AreEqual reports whether two programs have the same operations.
-func AreEqual(p, q [][]api.Op) bool {
-	return slices.EqualFunc(p, q, slices.Equal[[]api.Op])
+// AreEqual reports whether two programs have the same operations, or two lists of
+// traces the same events.
+func AreEqual[T comparable](p, q [][]T) bool {
+	return slices.EqualFunc(p, q, slices.Equal[[]T])
 }
 
 // Chooser returns a function that returns numbers below a limit; which ones depends on

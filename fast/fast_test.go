@@ -323,6 +323,45 @@ func TestPrefixes(t *testing.T) {
 	}
 }
 
+// Detectors that divide the variables of a trace flag what Run flags, even if they
+// get their accesses one detector after the other.
+func TestDetectorsThatDivideVariables(t *testing.T) {
+	for seed := range 40 {
+		l := cases.Long(80, seed)
+		want, _ := modelled(t, l)
+		accesses, _ := full.Accesses(l)
+		for n := 1; n <= 9; n++ {
+			var got []api.Flag
+			for mine := range n {
+				got = append(got, flagsOf(t, accesses, func(x int) bool { return x%n == mine })...)
+			}
+			slices.SortFunc(got, func(f, g api.Flag) int { return f.At - g.At })
+			if !slices.Equal(got, want) {
+				t.Errorf("%d detectors, %v: %v, want %v", n, l, got, want)
+			}
+		}
+	}
+}
+
+// flagsOf returns the flags of a new detector that gets the accesses of some variables.
+func flagsOf(t *testing.T, accesses []full.Access, isMine func(x int) bool) []api.Flag {
+	t.Helper()
+	var flags []api.Flag
+	d := fast.New()
+	for _, a := range accesses {
+		if !isMine(a.Obj) {
+			continue
+		}
+		flag, is := d.Access(a)
+		if is {
+			flags = append(flags, flag)
+		} else if flag != (api.Flag{}) {
+			t.Errorf("Access(%v) = %v, false", a, flag)
+		}
+	}
+	return flags
+}
+
 func TestNoEvents(t *testing.T) {
 	for _, l := range [][]api.Event{nil, {}} {
 		wantResults(t, l, nil, 0)
